@@ -4,6 +4,7 @@ package rill
 import (
 	"rill/api"
 	"rill/codes"
+	"rill/stream"
 )
 
 // Codes makes codes of lengths (P3).
@@ -16,7 +17,13 @@ func Codes(lengths []int) ([]string, api.Errno) {
 }
 
 // Inflate reads a compressed stream (P4).
-func Inflate(s string) (string, int, api.Errno) { return "", 0, api.OK }
+func Inflate(s string) (string, int, api.Errno) {
+	text, taken, e := stream.Read(s)
+	if e == api.ErrForm || e == api.ErrLong {
+		return "", 0, e
+	}
+	return text, taken, e
+}
 
 // Deflate compresses a text (P5).
 func Deflate(t string) (string, api.Errno) { return "", api.OK }
