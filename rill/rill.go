@@ -26,7 +26,12 @@ func Inflate(s string) (string, int, api.Errno) {
 }
 
 // Deflate compresses a text (P5).
-func Deflate(t string) (string, api.Errno) { return "", api.OK }
+func Deflate(t string) (string, api.Errno) {
+	if len(t) > api.MaxText {
+		return "", api.ErrLong
+	}
+	return stream.Write(t), api.OK
+}
 
 // Writer takes bytes on channels.
 type Writer struct{}

@@ -23,3 +23,18 @@ func measure(place, steps int) (int, int) {
 	within := place & (1<<steps - 1)
 	return (1<<steps + within) << added, added
 }
+
+// placed turns measure round: it gives the place of the symbol that tells a
+// value, what is to be added, and in how many bits.
+func placed(value, steps int) (int, int, int) {
+	place := 0
+	for {
+		next, _ := measure(place+1, steps)
+		if next > value {
+			break
+		}
+		place++
+	}
+	told, added := measure(place, steps)
+	return place, value - told, added
+}

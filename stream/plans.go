@@ -28,9 +28,19 @@ func (r *reader) kind1() *plan {
 		return r.fixed
 	}
 	r.fixed = &plan{}
-	r.fixed.symbols, _ = codes.Fitting(slices.Concat(times(144, 8), times(112, 9), times(24, 7), times(8, 8)))
-	r.fixed.distances, _ = codes.Fitting(times(32, 5))
+	r.fixed.symbols, _ = codes.Fitting(fixedSymbols())
+	r.fixed.distances, _ = codes.Fitting(fixedDistances())
 	return r.fixed
+}
+
+// fixedSymbols gives the lengths of symbols in blocks of kind 1.
+func fixedSymbols() []int {
+	return slices.Concat(times(144, 8), times(112, 9), times(24, 7), times(8, 8))
+}
+
+// fixedDistances gives the lengths of distances in blocks of kind 1.
+func fixedDistances() []int {
+	return times(32, 5)
 }
 
 // times gives a list of n times the same length.

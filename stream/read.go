@@ -1,4 +1,4 @@
-// Package stream reads streams: see DOC.md, section 'Words'.
+// Package stream reads and writes streams: see DOC.md, section 'Words'.
 package stream
 
 import (
