@@ -1,16 +1,26 @@
 package stream
 
-import "rill/api"
+import (
+	"strings"
+
+	"rill/api"
+)
 
 // stop is what a reading gives up with, from however deep: why it goes no
 // further.
 type stop struct{ why api.Errno }
 
+// place is where a bit stands.
+type place struct {
+	at  int // the byte that it is of
+	low int // how many bits of that byte are ahead of it
+}
+
 // bits gives the bits of a string, of each byte from its lowest bit up.
 type bits struct {
-	from string
-	at   int // the byte that the next bit is of
-	low  int // how many of its bits were taken
+	from  string
+	place       // of the next bit
+	kept  place // where a reading that gave up is begun again
 }
 
 // bit takes a bit; where there is none, it gives up.
@@ -43,10 +53,15 @@ func (b *bits) whole() {
 	}
 }
 
-// taken tells how many bytes were taken, the last one perhaps in part.
-func (b *bits) taken() int {
-	if b.low > 0 {
-		return b.at + 1
-	}
-	return b.at
+// keep says that the bits up to here are done with.
+func (b *bits) keep() {
+	b.kept = b.place
+}
+
+// back goes back to the first bit that is not done with. Of the bytes only those
+// from there on are left, as memory of their own: what was handed in is let go.
+func (b *bits) back() {
+	b.from = strings.Clone(b.from[b.kept.at:])
+	b.kept.at = 0
+	b.place = b.kept
 }

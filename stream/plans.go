@@ -23,7 +23,7 @@ type plan struct {
 }
 
 // kind1 gives the plan of blocks of kind 1.
-func (r *reader) kind1() *plan {
+func (r *Reader) kind1() *plan {
 	if r.fixed != nil {
 		return r.fixed
 	}
@@ -49,7 +49,7 @@ func times(n, length int) []int {
 }
 
 // kind2 reads the plan that a block of kind 2 begins with.
-func (r *reader) kind2() *plan {
+func (r *Reader) kind2() *plan {
 	first := 257 + r.told()
 	second := 1 + r.told()
 	list := r.lengths(r.lengthCodes(), first+second)
@@ -65,7 +65,7 @@ func (r *reader) kind2() *plan {
 }
 
 // told reads a number that tells how many lengths there are.
-func (r *reader) told() int {
+func (r *Reader) told() int {
 	number := r.number(5)
 	if number > mostTold {
 		wrong()
@@ -74,7 +74,7 @@ func (r *reader) told() int {
 }
 
 // lengthCodes reads the codes by which lengths come.
-func (r *reader) lengthCodes() codes.Set {
+func (r *Reader) lengthCodes() codes.Set {
 	var lengths [len(order)]int
 	for i := range r.number(4) + 4 {
 		lengths[order[i]] = r.number(3)
@@ -87,7 +87,7 @@ func (r *reader) lengthCodes() codes.Set {
 }
 
 // lengths reads a list of so many lengths.
-func (r *reader) lengths(set codes.Set, many int) []int {
+func (r *Reader) lengths(set codes.Set, many int) []int {
 	list := make([]int, 0, many)
 	for len(list) < many {
 		length, n := r.symbol(set), 1

@@ -6,10 +6,15 @@ import (
 	"rill/codes"
 )
 
-// reader goes through a stream, bit by bit.
-type reader struct {
+// Reader goes through a stream, bit by bit, as its bytes come. What it has of a
+// block is changed only together with the bits that are done with, so that it
+// can go on from there when more bytes have come.
+type Reader struct {
 	bits
 	text  []byte
+	last  bool  // whether no block comes behind the one that was begun
+	bare  int   // bytes of a block of kind 0 that are still to come
+	plan  *plan // by which symbols come, up to the block's end
 	fixed *plan // of kind 1, kept since there may be many such blocks
 }
 
@@ -18,15 +23,35 @@ type reader struct {
 // text that was there by then, and, if nothing stopped it, how many bytes it
 // took.
 func Read(s string) (string, int, api.Errno) {
-	r := reader{bits: bits{from: s}}
-	if why := r.run(); why != api.OK {
-		return string(r.text), 0, why
+	var r Reader
+	text, left, why := r.Feed(s)
+	if why != api.OK {
+		return text, 0, why
 	}
-	return string(r.text), r.taken(), api.OK
+	return text, len(s) - left, api.OK
 }
 
-// run reads all blocks, and tells what stopped it.
-func (r *reader) run() (why api.Errno) {
+// Feed goes on through a stream by the next of its bytes. It gives the text that
+// is new by them, how many of them are left behind the stream's end, and what
+// stopped it, as Read does; behind api.ErrForm and api.ErrLong nothing may be
+// fed.
+func (r *Reader) Feed(s string) (text string, left int, why api.Errno) {
+	r.from += s
+	told := len(r.text)
+	why = r.run()
+	text = string(r.text[told:])
+	if why != api.OK {
+		r.back()
+		return text, 0, why
+	}
+	r.whole()
+	left = len(r.from) - r.at
+	*r = Reader{last: true} // at its end, and nothing else is asked for any more
+	return text, left, api.OK
+}
+
+// run reads all blocks that there are, and tells what stopped it.
+func (r *Reader) run() (why api.Errno) {
 	defer func() {
 		switch gave := recover().(type) {
 		case nil:
@@ -46,50 +71,64 @@ func wrong() {
 }
 
 // blocks reads block behind block, up to the end of the last one.
-func (r *reader) blocks() {
-	var p *plan
+func (r *Reader) blocks() {
 blocks:
-	for last := false; !last; {
-		last = r.bit() == 1
-		switch r.number(2) {
-		case 0:
-			r.stored()
-			continue blocks
-		case 1:
-			p = r.kind1()
-		case 2:
-			p = r.kind2()
-		default:
-			wrong()
+	for {
+		for r.bare > 0 {
+			r.put(byte(r.number(8)))
+			r.bare--
+			r.keep()
 		}
-		for {
-			symbol := r.symbol(p.symbols)
+		for r.plan != nil {
+			symbol := r.symbol(r.plan.symbols)
 			switch {
 			case symbol < blockEnd:
 				r.put(byte(symbol))
 			case symbol > blockEnd:
-				r.again(symbol, p.distances)
+				r.again(symbol, r.plan.distances)
 			default:
+				r.plan = nil
+				r.keep()
 				continue blocks
 			}
+			r.keep()
 		}
+		if r.last {
+			break blocks
+		}
+		r.begin()
 	}
 }
 
-// stored reads a block of kind 0.
-func (r *reader) stored() {
+// begin reads what stands in a block ahead of its text.
+func (r *Reader) begin() {
+	last := r.bit() == 1
+	switch r.number(2) {
+	case 0:
+		r.bare = r.size()
+	case 1:
+		r.plan = r.kind1()
+	case 2:
+		r.plan = r.kind2()
+	default:
+		wrong()
+	}
+	r.last = last
+	r.keep()
+}
+
+// size reads how many bytes a block of kind 0 has.
+func (r *Reader) size() int {
 	r.whole()
 	n := r.number(16)
 	if r.number(16) != 65535-n {
 		wrong()
 	}
-	for range n {
-		r.put(byte(r.number(8)))
-	}
+	return n
 }
 
 // symbol reads a symbol by its code.
-func (r *reader) symbol(set codes.Set) int {
+func (r *Reader) symbol(set codes.Set) int {
 	symbol, ok := set.Symbol(r.bit)
 	if !ok {
 		wrong()
@@ -98,13 +137,13 @@ func (r *reader) symbol(set codes.Set) int {
 }
 
 // put adds a byte to the text.
-func (r *reader) put(b byte) {
+func (r *Reader) put(b byte) {
 	r.fits(1)
 	r.text = append(r.text, b)
 }
 
 // fits gives up if the text has no room for n bytes more.
-func (r *reader) fits(n int) {
+func (r *Reader) fits(n int) {
 	if n > api.MaxText-len(r.text) {
 		panic(stop{api.ErrLong})
 	}
@@ -112,7 +151,7 @@ func (r *reader) fits(n int) {
 
 // again reads what is behind a symbol that tells a length, and adds those bytes
 // of the text again: one by one, since they may be some of these very ones.
-func (r *reader) again(symbol int, distances codes.Set) {
+func (r *Reader) again(symbol int, distances codes.Set) {
 	if symbol > greatLength || distances.Empty() {
 		wrong()
 	}
@@ -128,7 +167,7 @@ func (r *reader) again(symbol int, distances codes.Set) {
 }
 
 // length reads what is to be added to the length that the symbol tells.
-func (r *reader) length(symbol int) int {
+func (r *Reader) length(symbol int) int {
 	if symbol == greatLength {
 		return greatest
 	}
@@ -137,7 +176,7 @@ func (r *reader) length(symbol int) int {
 }
 
 // distance reads a distance.
-func (r *reader) distance(set codes.Set) int {
+func (r *Reader) distance(set codes.Set) int {
 	symbol := r.symbol(set)
 	if symbol > lastDistance {
 		wrong()

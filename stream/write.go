@@ -2,48 +2,65 @@ package stream
 
 import "rill/codes"
 
-// writer writes a block.
+// writer writes blocks.
 type writer struct {
 	pen
 	symbols, distances []string // the codes of kind 1
 }
 
-// Write gives a stream of a text of at most api.MaxText bytes, in one block: of
-// kind 1, or of kind 0 where that is shorter. Every distance in such a text can
-// be told, and in so few bits that a length with its distance never takes more
-// than its bytes one by one.
+// Write gives a stream of a text of at most api.MaxText bytes, or the end of a
+// stream that is at a whole byte, in one block: of kind 1, or of kind 0 where
+// that is shorter. Every distance in such a text can be told, and in so few bits
+// that a length with its distance never takes more than its bytes one by one.
 func Write(text string) string {
-	symbols, bare := coded(text), stored(text)
-	if len(bare) < len(symbols) {
-		return bare
-	}
-	return symbols
+	var symbols, bare writer
+	symbols.coded(1, text)
+	bare.stored(1, text)
+	return shorter(symbols, bare)
 }
 
-// stored gives a last block of kind 0.
-func stored(text string) string {
-	var w writer
-	w.begin(0)
+// Part gives a piece of a stream, from a whole byte to a whole byte, of a text
+// of at most api.MaxText bytes; another piece or the end can come behind it. A
+// block of kind 1 has one of kind 0 without text behind it, since only that kind
+// comes to a whole byte.
+func Part(text string) string {
+	var symbols, bare writer
+	symbols.coded(0, text)
+	symbols.stored(0, "")
+	bare.stored(0, text)
+	return shorter(symbols, bare)
+}
+
+// shorter gives what the one wrote that wrote less, the first one if both wrote
+// as much.
+func shorter(first, second writer) string {
+	if len(second.bytes) < len(first.bytes) {
+		return string(second.bytes)
+	}
+	return string(first.bytes)
+}
+
+// stored writes a block of kind 0.
+func (w *writer) stored(last int, text string) {
+	w.begin(last, 0)
 	w.whole()
 	w.number(len(text), 16)
 	w.number(65535-len(text), 16)
-	return string(append(w.bytes, text...))
+	w.bytes = append(w.bytes, text...)
 }
 
-// coded gives a last block of kind 1.
-func coded(text string) string {
-	var w writer
+// coded writes a block of kind 1.
+func (w *writer) coded(last int, text string) {
 	w.symbols, _ = codes.Texts(fixedSymbols())
 	w.distances, _ = codes.Texts(fixedDistances())
-	w.begin(1)
+	w.begin(last, 1)
 	w.all(text)
 	w.code(w.symbols[blockEnd])
-	return string(w.bytes)
 }
 
-// begin writes what a last block begins with.
-func (w *writer) begin(kind int) {
-	w.bit(1)
+// begin writes what every block begins with.
+func (w *writer) begin(last, kind int) {
+	w.bit(last)
 	w.number(kind, 2)
 }
 

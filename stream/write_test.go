@@ -148,3 +148,58 @@ func TestWriteAnything(t *testing.T) {
 		wantWritten(t, anything(r, api.MaxText, few))
 	}
 }
+
+func TestPartKinds(t *testing.T) {
+	for _, c := range []struct{ text, s string }{
+		{"", "\x00\x00\x00\xff\xff"},
+		{"a", "\x00\x01\x00\xfe\xffa"},
+		{strings.Repeat("a", 259), press("010"+"10010001"+"11000101"+"00000"+"0000000"+"000") + "\x00\x00\xff\xff"},
+	} {
+		if s := Part(c.text); s != c.s {
+			t.Errorf("Part(%q) = %x, want %x", c.text, s, c.s)
+		}
+	}
+}
+
+// wantParts holds that pieces of a stream can be read up to the end of each of
+// them, and with an end behind them to the end.
+func wantParts(t *testing.T, texts ...string) {
+	t.Helper()
+	s, all := "", ""
+	for _, text := range texts {
+		end := s + Write(text)
+		part := Part(text)
+		if len(part) > 5+len(text) {
+			t.Errorf("Part(%.60q) (%d bytes) has %d bytes", text, len(text), len(part))
+		}
+		s += part
+		all += text
+		if got, _, e := Read(s); got != all || e != api.ErrMore {
+			t.Fatalf("Read of the parts of %.60q = %.60q, %d", texts, got, e)
+		}
+		for _, end := range []string{end, s + Write("")} {
+			if got, taken, e := Read(end); got != all || taken != len(end) || e != api.OK {
+				t.Fatalf("Read of the parts of %.60q with an end = %.60q, %d of %d, %d", texts, got, taken, len(end), e)
+			}
+		}
+	}
+}
+
+func TestParts(t *testing.T) {
+	r := rand.New(rand.NewSource(4))
+	wantParts(t, "", "", "a", "", "ab", strings.Repeat("a", 300), "")
+	for n := range 40 { // the symbols end at each bit of a byte
+		wantParts(t, strings.Repeat("\x90", 9)+strings.Repeat("\x00", n), strings.Repeat("x", n))
+		wantParts(t, strings.Repeat("abc\xff", n)+anything(r, n, 3))
+	}
+	for range 200 {
+		var texts []string
+		for range r.Intn(8) {
+			texts = append(texts, anything(r, r.Intn(200), []int{1, 2, 10, 256}[r.Intn(4)]))
+		}
+		wantParts(t, texts...)
+	}
+	for _, few := range []int{1, 2, 10, 256} {
+		wantParts(t, anything(r, api.MaxText, few))
+	}
+}
